@@ -1,7 +1,11 @@
 // Package wire is layer 1: it encodes integers and strings as bytes, decodes them, and computes checksums. See shared/doc/01-wire.md.
 package wire
 
-import "onair/api"
+import (
+	"strings"
+
+	"onair/api"
+)
 
 // The groups of an integer have 7 bits; more is what is added to the byte of every group but the last one.
 const (
@@ -63,7 +67,8 @@ func String(s string, at int) (string, int, api.Errno) {
 		return "", 0, api.ErrWire
 	}
 	end := start + length
-	return s[start:end], end, api.OK
+	// A part of s would share its memory (R3), and a short result would keep a long s alive.
+	return strings.Clone(s[start:end]), end, api.OK
 }
 
 // fold maps the integers to those from 0 on, so that small ones of either sign have short encodings. Within the limits, nothing overflows.

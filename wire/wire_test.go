@@ -5,6 +5,7 @@ import (
 	"math"
 	"strings"
 	"testing"
+	"unsafe"
 
 	"onair/api"
 	"onair/wire"
@@ -165,6 +166,14 @@ func TestStringErrors(t *testing.T) {
 	} {
 		wantString(t, s, 0, "", 0, api.ErrWire)
 		wantString(t, "\x02"+s, 1, "", 0, api.ErrWire)
+	}
+}
+
+// R3: the result shares no memory with the argument.
+func TestStringIsNewMemory(t *testing.T) {
+	code := putString(t, "onair")
+	if s, _, _ := wire.String(code, 0); unsafe.StringData(s) == unsafe.StringData(code[1:]) {
+		t.Error("String returns a part of its argument")
 	}
 }
 
